@@ -801,7 +801,7 @@ func TestFirstTotal(t *testing.T) {
 	}
 }
 
-// P9.2, P9.3: a Text that is another one, but as long, is right: the right ones with the least numbers tell the text, and by them the lost ones are made.
+// P9.2, P9.3: a Text that is another one, but as long, is right: the right ones with the least numbers tell the text, and the lost ones are made of that.
 func TestOtherTexts(t *testing.T) {
 	g := geo(4, 2, 2, 1)
 	at := firstOf(2, 0)
@@ -828,9 +828,8 @@ func TestOtherTexts(t *testing.T) {
 		misses(t, r, g, 0, 5, missing...)
 		rebuilds(t, r, g, 0, 5, len(missing))
 		for _, d := range missing {
-			part, _ := code.Again(2, 2, d, l...)
 			x, e := shard.Read(r, d, at)
-			if want := (api.Shard{Stamp: 5, Index: d, Total: 99, Text: part}); x != want || e != api.OK {
+			if want := shardOf(t, g, d, 5, text); x != want || e != api.OK {
 				t.Errorf("the drive %d has %+v %v, not %+v", d, x, e, want)
 			}
 		}
@@ -838,30 +837,121 @@ func TestOtherTexts(t *testing.T) {
 	}
 }
 
-// P9.3: what stands behind the text's bytes in a part is not lost where a shard is made again: whichever drives are lost then, it is the same text, and the shards are what they were.
-func TestBehindTheText(t *testing.T) {
-	g := geo(4, 2, 2, 1)
-	cauchy, _ := matrix.Cauchy(2, 2)
-	first := []string{"t", "b"} // of a text of one byte
-	for i := range 2 {
-		s, _ := field.Sum(cauchy[i], first[0], first[1])
-		first = append(first, s)
-	}
-	r := fresh(t, g)
-	for d, part := range first {
-		is(t, "shard.Write", shard.Write(r, d, firstOf(2, 0), api.Shard{Stamp: 5, Index: d, Total: 1, Text: part}), api.OK)
-	}
-	was := []string{r.All(0), r.All(1), r.All(2), r.All(3)}
-	for a := range 4 {
-		for b := range a {
-			r.Wipe(a)
-			r.Wipe(b)
-			reads(t, r, g, 0, 5, "t")
-			rebuilds(t, r, g, 0, 5, 2)
-			if now := []string{r.All(0), r.All(1), r.All(2), r.All(3)}; !slices.Equal(now, was) {
-				t.Errorf("%d and %d are not rebuilt as they were", a, b)
+// choices are all ways to choose at most so many of the drives.
+func choices(drives, most int) (l [][]int) {
+	for choice := range 1 << drives {
+		var c []int
+		for d := range drives {
+			if choice>>d&1 == 1 {
+				c = append(c, d)
 			}
 		}
+		if len(c) <= most {
+			l = append(l, c)
+		}
+	}
+	return l
+}
+
+// rebuildsAs wipes drives, and holds Read to a text and Rebuild to that text's shards, which it gives just to these drives.
+func rebuildsAs(t *testing.T, r *rack.Rack, g api.Geo, row int, text string, lost []int) {
+	t.Helper()
+	for _, d := range lost {
+		is(t, "Wipe", r.Wipe(d), api.OK)
+	}
+	var was []string
+	for d := range g.Drives {
+		was = append(was, r.All(d))
+	}
+	reads(t, r, g, row, 5, text)
+	misses(t, r, g, row, 5, lost...)
+	rebuilds(t, r, g, row, 5, len(lost))
+	for d := range g.Drives {
+		if !slices.Contains(lost, d) {
+			if r.All(d) != was[d] {
+				t.Errorf("%s, of %v: the drive %d has its shard, and is written", told(g, row, len(text)), lost, d)
+			}
+			continue
+		}
+		x, e := shard.Read(r, d, firstOf(g.Tail, row))
+		if want := shardOf(t, g, d, 5, text); x != want || e != api.OK {
+			t.Errorf("%s, of %v: the drive %d has %+v %v, not %+v", told(g, row, len(text)), lost, d, x, e, want)
+		}
+	}
+	reads(t, r, g, row, 5, text)
+	misses(t, r, g, row, 5)
+	rebuilds(t, r, g, row, 5, 0)
+}
+
+// P9.3: where the right shards have other bytes than 0 behind the text, be it in one part, in several, or in all, it is not these that a lost shard is made of, but the text.
+func TestBehindTheText(t *testing.T) {
+	for _, g := range []api.Geo{geo(2, 1, 2, 1), geo(3, 1, 2, 2), geo(4, 2, 3, 1), geo(5, 1, 2, 1), geo(6, 3, 2, 2)} {
+		k := g.Drives - g.Parity
+		for _, n := range []int{1, 2, k - 1, k + 1, 2*k - 1, 64*k + 1, 448*k - k + 1, 448*k - 1, 448 * k} {
+			if n < 1 || n > 448*k {
+				continue
+			}
+			text := some(n)
+			behind := strings.Repeat("x", (n+k-1)/k*k-n)
+			for _, lost := range choices(g.Drives, g.Parity) {
+				r := fresh(t, g)
+				for d, part := range parts(t, g, text+behind) {
+					x := api.Shard{Stamp: 5, Index: d, Total: n, Text: part}
+					is(t, "shard.Write", shard.Write(r, d, firstOf(g.Tail, 0), x), api.OK)
+				}
+				rebuildsAs(t, r, g, 0, text, lost)
+			}
+		}
+	}
+}
+
+// P9.3: a stripe over another one of the same stamp and length, cut behind any of its shards: a lost shard is a part of the text that the right ones with the least numbers tell.
+func TestRebuildOverAnotherCut(t *testing.T) {
+	for _, g := range []api.Geo{geo(3, 1, 2, 1), geo(4, 2, 2, 1), geo(5, 3, 2, 1), geo(5, 1, 2, 1)} {
+		k := g.Drives - g.Parity
+		for _, n := range []int{1, k, k + 1, 64*k + 1} {
+			old, now := parts(t, g, some(n)), parts(t, g, strings.Repeat("n", n))
+			each := (len(now[0])+63)/64 + 1
+			for whole := range g.Drives + 1 {
+				for _, lost := range choices(g.Drives, g.Parity) {
+					r := fresh(t, g)
+					is(t, "Write", stripe.Write(r, g, 0, 5, some(n)), api.OK)
+					is(t, "Cut", r.Cut(whole*each), api.OK)
+					stripe.Write(r, g, 0, 5, strings.Repeat("n", n))
+					is(t, "Lift", r.Lift(), api.OK)
+					var l []api.Part
+					for d := range g.Drives {
+						part := api.Part{Index: d, Text: old[d]}
+						if d < whole {
+							part.Text = now[d]
+						}
+						if !slices.Contains(lost, d) {
+							l = append(l, part)
+						}
+					}
+					text, e := code.Gather(k, g.Parity, n, l...)
+					is(t, "code.Gather", e, api.OK)
+					rebuildsAs(t, r, g, 0, text, lost)
+				}
+			}
+		}
+	}
+}
+
+// P9.3: the stripe of one byte over another one, of which just the first drive's shard was written: what is told of the drive 1 then, byte by byte.
+func TestRebuildOverAnotherByte(t *testing.T) {
+	g := geo(3, 1, 2, 2)
+	r := fresh(t, g)
+	is(t, "Write", stripe.Write(r, g, 0, 5, "a"), api.OK)
+	is(t, "Cut", r.Cut(2), api.OK)
+	is(t, "Write", stripe.Write(r, g, 0, 5, "b"), api.ErrDown)
+	is(t, "Lift", r.Lift(), api.OK)
+	is(t, "Wipe", r.Wipe(1), api.OK)
+	reads(t, r, g, 0, 5, "b")
+	rebuilds(t, r, g, 0, 5, 1)
+	x, e := shard.Read(r, 1, 6)
+	if want := (api.Shard{Stamp: 5, Index: 1, Total: 1, Text: "\x00"}); x != want || e != api.OK {
+		t.Errorf("the drive 1 has %+v %v, not %+v", x, e, want)
 	}
 }
 
@@ -1301,11 +1391,10 @@ func wantWrite(t *testing.T, r *rack.Rack, g api.Geo, row int, stamp uint64, tex
 }
 
 // wantRebuild does what Rebuild has to do: P9.3.
-func wantRebuild(r *rack.Rack, g api.Geo, row int, stamp uint64) (int, api.Errno) {
+func wantRebuild(t *testing.T, r *rack.Rack, g api.Geo, row int, stamp uint64) (int, api.Errno) {
 	f := wantFound(r, g, row, stamp)
 	for _, d := range f.missing {
-		part, _ := code.Again(g.Drives-g.Parity, g.Parity, d, f.parts...)
-		if e := shard.Write(r, d, firstOf(g.Tail, row), api.Shard{Stamp: stamp, Index: d, Total: f.total, Text: part}); e != api.OK {
+		if e := shard.Write(r, d, firstOf(g.Tail, row), shardOf(t, g, d, stamp, f.text)); e != api.OK {
 			return 0, e
 		}
 	}
@@ -1367,7 +1456,7 @@ func (s step) do(t *testing.T, r, want *rack.Rack) bool {
 		return slices.Equal(l, f.missing) && e == f.e
 	case 'b':
 		n, e := stripe.Rebuild(r, s.g, s.row, s.stamp)
-		m, f := wantRebuild(want, s.g, s.row, s.stamp)
+		m, f := wantRebuild(t, want, s.g, s.row, s.stamp)
 		return n == m && e == f
 	case 'c':
 		return stripe.Clear(r, s.g, s.row) == wantClear(want, s.g, s.row)
